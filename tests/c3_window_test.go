@@ -251,10 +251,10 @@ func theActs(p impl.Plan) (map[impl.Link]string, string) {
 
 // mixedActs returns n acts in an order that is another one for each seed.
 func mixedActs(seed int, n int) string {
+	next := mixer(seed)
 	acts := make([]byte, n)
 	for i := range acts {
-		seed = (seed*1103515245 + 12345) % (1 << 31)
-		acts[i] = "ssddaa01230xy"[seed>>16%13]
+		acts[i] = "ssddaa01230xy"[next(13)]
 	}
 	return string(acts)
 }

@@ -21,9 +21,9 @@ func allTexts(alphabet string, most int) []string {
 	return list
 }
 
-// allLists returns all lists of at most most numbers of an alphabet, the empty one among them.
-func allLists(alphabet []int, most int) [][]int {
-	lists := [][]int{nil}
+// allLists returns all lists of at most most members of an alphabet, the empty one among them.
+func allLists[T any](alphabet []T, most int) [][]T {
+	lists := [][]T{nil}
 	for from := 0; most > 0; most-- {
 		to := len(lists)
 		for _, list := range lists[from:to] {
@@ -34,6 +34,14 @@ func allLists(alphabet []int, most int) [][]int {
 		from = to
 	}
 	return lists
+}
+
+// mixer returns a function that tells numbers below another one, which are others for each seed.
+func mixer(seed int) func(below int) int {
+	return func(below int) int {
+		seed = (seed*1103515245 + 12345) % (1 << 31)
+		return (seed >> 16) % below
+	}
 }
 
 // repeated returns a list of n times the number x.
@@ -104,8 +112,14 @@ func noughts(n int) string {
 // leavesAlone reports a fault if a function changes its list, or the memory behind it, or if its result shares memory with it or with an earlier result.
 func leavesAlone(t *testing.T, name string, f func([]int) []int, list []int) {
 	t.Helper()
-	const mark = -77
-	memory := joined(list, repeated(mark, 40))
+	leavesAloneBut(t, name, f, list, -77)
+}
+
+// leavesAloneBut does so for a list of any kind; mark is what no list and no result has.
+func leavesAloneBut[T comparable](t *testing.T, name string, f func([]T) []T, list []T, mark T) {
+	t.Helper()
+	behind := slices.Repeat([]T{mark}, 40)
+	memory := slices.Concat(list, behind)
 	given := memory[:len(list)]
 	first := f(given)
 	kept := slices.Clone(first)
@@ -114,7 +128,7 @@ func leavesAlone(t *testing.T, name string, f func([]int) []int, list []int) {
 	for i := range second {
 		second[i] = mark
 	}
-	if !slices.Equal(memory, joined(list, repeated(mark, 40))) {
+	if !slices.Equal(memory, slices.Concat(list, behind)) {
 		t.Errorf("%s changes its list %v, or shares it", name, list)
 	}
 	for i := range memory {
